@@ -129,3 +129,24 @@ func ParseInt(s string) (int, bool) {
 	}
 	return n, true
 }
+
+func formatNumbers(numbers []int) string {
+	fields := make([]string, len(numbers))
+	for k, n := range numbers {
+		fields[k] = FormatInt(n)
+	}
+	return strings.Join(fields, ",")
+}
+
+func parseNumbers(s string) ([]int, bool) {
+	var out []int
+	for field := range strings.SplitSeq(s, ",") {
+		// ParseInt reads only formats of numbers, so that no two strings give the same list.
+		n, ok := ParseInt(field)
+		if !ok {
+			return nil, false
+		}
+		out = append(out, n)
+	}
+	return out, true
+}
