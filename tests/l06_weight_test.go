@@ -55,6 +55,124 @@ func expectNoWeight(t *testing.T, c [][]int, s string) {
 	}
 }
 
+// mixedVectors are lists of n numbers, from 2 on, some of which are positive and some negative.
+func mixedVectors(n int) [][]int {
+	return [][]int{
+		[]int{1, -1, 0, 0}[:n], []int{-1, 1, 0, 0}[:n], []int{-3, 5, -7, 9}[:n], []int{1000, -1000, 0, 1000}[:n], []int{-1000000, 1000000, 1, -1}[:n],
+		append(repeated(0, n-2), -1, 1), append(repeated(1, n-1), -1), append([]int{1}, repeated(-1, n-1)...),
+	}
+}
+
+// someVectors are lists of n numbers up to a million in magnitude, mixed ones among them.
+func someVectors(n int) [][]int {
+	if n == 1 {
+		return someWeights(n)
+	}
+	return append(someWeights(n), mixedVectors(n)...)
+}
+
+// A reflection is that of weights or of root vectors at a point, and an action that of words on them.
+type (
+	reflection func(c [][]int, i int, v []int) []int
+	action     func(c [][]int, w []int, v []int) []int
+)
+
+func expectReflectionKeepsInvalidOnes(t *testing.T, what string, reflect reflection) {
+	t.Helper()
+	manyCartans(func(c [][]int) {
+		for _, i := range append([]int{len(c)}, badPoints...) {
+			for _, v := range someVectors(len(c)) {
+				expectWord(t, what+" with no such point", reflect(c, i, v), v)
+			}
+		}
+		for i := range c {
+			for _, v := range wrongLengths(len(c)) {
+				expectWord(t, what+" of another length", reflect(c, i, v), v)
+			}
+		}
+	})
+	for _, c := range invalidCartans() {
+		for _, i := range append([]int{0, 1, 2, 3}, badPoints...) {
+			for n := range 6 {
+				v := repeated(3, n)
+				expectWord(t, what+" with an invalid matrix", reflect(c, i, v), v)
+			}
+		}
+	}
+}
+
+func expectActionByEachLetter(t *testing.T, what string, act action, reflect reflection) {
+	t.Helper()
+	for name, s := range namedCartans {
+		c := mustParseCartan(t, s)
+		words := wordsUpTo(pointsOf(c), 4)
+		for n := 5; n <= 15; n++ {
+			words = append(words, repeated(n%len(c), n), impl.AlternatingWord(0, len(c)-1, n), impl.AlternatingWord(len(c)-1, 0, n))
+		}
+		for _, w := range words {
+			for _, v := range someVectors(len(c)) {
+				want := v
+				for k := len(w) - 1; k >= 0; k-- {
+					want = reflect(c, w[k], want)
+				}
+				if got := act(c, w, v); !sameRow(got, want) {
+					t.Errorf("%s(%s, %v, %v) = %v, want %v", what, name, w, v, got, want)
+				}
+			}
+		}
+	}
+}
+
+func expectActionOfWords(t *testing.T, what string, act action) {
+	t.Helper()
+	manyCartans(func(c [][]int) {
+		for _, v := range someVectors(len(c)) {
+			w := append(pointsOf(c), 0)
+			there := act(c, w, v)
+			if back := act(c, impl.ReverseWord(w), there); !sameRow(back, v) {
+				t.Errorf("%s(%v): %v and its reverse act on %v as %v", what, c, w, v, back)
+			}
+			u := pointsOf(c)
+			if got := act(c, impl.ConcatWords(u, w), v); !sameRow(got, act(c, u, there)) {
+				t.Errorf("%s(%v): %v followed by %v acts on %v as %v", what, c, u, w, v, got)
+			}
+			for i := range c {
+				for j := range c {
+					m := impl.BondOf(c, i, j)
+					a := act(c, impl.AlternatingWord(i, j, m), v)
+					b := act(c, impl.AlternatingWord(j, i, m), v)
+					if !sameRow(a, b) {
+						t.Errorf("%s(%v): the alternating words of %d and %d act on %v as %v and %v", what, c, i, j, v, a, b)
+					}
+				}
+			}
+		}
+	})
+}
+
+func expectActionKeepsInvalidOnes(t *testing.T, what string, act action) {
+	t.Helper()
+	manyCartans(func(c [][]int) {
+		v := repeated(4, len(c))
+		for _, w := range [][]int{{len(c)}, {-1}, {0, len(c)}, {len(c), 0}, {0, -1}, {-1, 0}, repeated(0, 16), repeated(0, 17), {math.MinInt}, {0, math.MaxInt, 0}} {
+			expectWord(t, what+" by no word", act(c, w, v), v)
+		}
+		for _, w := range [][]int{nil, {0}, pointsOf(c), repeated(0, 15)} {
+			for _, other := range wrongLengths(len(c)) {
+				expectWord(t, what+" of another length", act(c, w, other), other)
+			}
+		}
+	})
+	for _, c := range invalidCartans() {
+		for _, w := range [][]int{nil, {0}, {0, 1}, {1}, {-1}, {4}} {
+			for n := range 6 {
+				v := repeated(3, n)
+				expectWord(t, what+" with an invalid matrix", act(c, w, v), v)
+			}
+		}
+	}
+}
+
 func TestLimitOfWeights(t *testing.T) {
 	if impl.MaxValue != 1000 {
 		t.Errorf("MaxValue = %d", impl.MaxValue)
@@ -133,26 +251,7 @@ func TestReflectWeightOfAllMatrices(t *testing.T) {
 }
 
 func TestReflectWeightKeepsInvalidOnes(t *testing.T) {
-	manyCartans(func(c [][]int) {
-		for _, i := range append([]int{len(c)}, badPoints...) {
-			for _, v := range someWeights(len(c)) {
-				expectWord(t, "ReflectWeight with no such point", impl.ReflectWeight(c, i, v), v)
-			}
-		}
-		for i := range c {
-			for _, v := range wrongLengths(len(c)) {
-				expectWord(t, "ReflectWeight of another length", impl.ReflectWeight(c, i, v), v)
-			}
-		}
-	})
-	for _, c := range invalidCartans() {
-		for _, i := range append([]int{0, 1, 2, 3}, badPoints...) {
-			for n := range 6 {
-				v := repeated(3, n)
-				expectWord(t, "ReflectWeight with an invalid matrix", impl.ReflectWeight(c, i, v), v)
-			}
-		}
-	}
+	expectReflectionKeepsInvalidOnes(t, "ReflectWeight", impl.ReflectWeight)
 }
 
 func TestActOnWeight(t *testing.T) {
@@ -167,72 +266,15 @@ func TestActOnWeight(t *testing.T) {
 }
 
 func TestActOnWeightReflectsByEachLetter(t *testing.T) {
-	for name, s := range namedCartans {
-		c := mustParseCartan(t, s)
-		words := wordsUpTo(pointsOf(c), 4)
-		for n := 5; n <= 15; n++ {
-			words = append(words, repeated(n%len(c), n), impl.AlternatingWord(0, len(c)-1, n), impl.AlternatingWord(len(c)-1, 0, n))
-		}
-		for _, w := range words {
-			for _, v := range someWeights(len(c)) {
-				want := v
-				for k := len(w) - 1; k >= 0; k-- {
-					want = reflected(c, w[k], want)
-				}
-				if got := impl.ActOnWeight(c, w, v); !sameRow(got, want) {
-					t.Errorf("ActOnWeight(%s, %v, %v) = %v, want %v", name, w, v, got, want)
-				}
-			}
-		}
-	}
+	expectActionByEachLetter(t, "ActOnWeight", impl.ActOnWeight, reflected)
 }
 
 func TestActionOfWords(t *testing.T) {
-	manyCartans(func(c [][]int) {
-		for _, v := range someWeights(len(c)) {
-			w := append(pointsOf(c), 0)
-			there := impl.ActOnWeight(c, w, v)
-			if back := impl.ActOnWeight(c, impl.ReverseWord(w), there); !sameRow(back, v) {
-				t.Errorf("%v: %v and its reverse act on %v as %v", c, w, v, back)
-			}
-			u := pointsOf(c)
-			if got := impl.ActOnWeight(c, impl.ConcatWords(u, w), v); !sameRow(got, impl.ActOnWeight(c, u, there)) {
-				t.Errorf("%v: %v followed by %v acts on %v as %v", c, u, w, v, got)
-			}
-			for i := range c {
-				for j := range c {
-					m := impl.BondOf(c, i, j)
-					a := impl.ActOnWeight(c, impl.AlternatingWord(i, j, m), v)
-					b := impl.ActOnWeight(c, impl.AlternatingWord(j, i, m), v)
-					if !sameRow(a, b) {
-						t.Errorf("%v: the alternating words of %d and %d act on %v as %v and %v", c, i, j, v, a, b)
-					}
-				}
-			}
-		}
-	})
+	expectActionOfWords(t, "ActOnWeight", impl.ActOnWeight)
 }
 
 func TestActOnWeightKeepsInvalidOnes(t *testing.T) {
-	manyCartans(func(c [][]int) {
-		v := repeated(4, len(c))
-		for _, w := range [][]int{{len(c)}, {-1}, {0, len(c)}, {len(c), 0}, {0, -1}, {-1, 0}, repeated(0, 16), repeated(0, 17), {math.MinInt}, {0, math.MaxInt, 0}} {
-			expectWord(t, "ActOnWeight by no word", impl.ActOnWeight(c, w, v), v)
-		}
-		for _, w := range [][]int{nil, {0}, pointsOf(c), repeated(0, 15)} {
-			for _, other := range wrongLengths(len(c)) {
-				expectWord(t, "ActOnWeight of another length", impl.ActOnWeight(c, w, other), other)
-			}
-		}
-	})
-	for _, c := range invalidCartans() {
-		for _, w := range [][]int{nil, {0}, {0, 1}, {1}, {-1}, {4}} {
-			for n := range 6 {
-				v := repeated(3, n)
-				expectWord(t, "ActOnWeight with an invalid matrix", impl.ActOnWeight(c, w, v), v)
-			}
-		}
-	}
+	expectActionKeepsInvalidOnes(t, "ActOnWeight", impl.ActOnWeight)
 }
 
 func TestRhoOf(t *testing.T) {
