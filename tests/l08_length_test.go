@@ -107,6 +107,20 @@ func noWords(n int) [][]int {
 	}
 }
 
+// eachNoWord calls f with valid matrices and lists that are no words for them, and with invalid matrices, for which no list is a word.
+func eachNoWord(f func(c [][]int, w []int)) {
+	manyCartans(func(c [][]int) {
+		for _, w := range noWords(len(c)) {
+			f(c, w)
+		}
+	})
+	for _, c := range invalidCartans() {
+		for _, w := range append(noWords(max(len(c), 1)), nil, []int{}, []int{0}, []int{1}, []int{0, 0}, []int{0, 1, 0}) {
+			f(c, w)
+		}
+	}
+}
+
 func expectNormalForm(t *testing.T, c [][]int, w []int, want []int) {
 	t.Helper()
 	if got, ok := impl.NormalForm(c, w); !ok || !sameRow(got, want) {
@@ -670,16 +684,7 @@ func expectNoElement(t *testing.T, c [][]int, w []int) {
 }
 
 func TestLengthsOfNoWords(t *testing.T) {
-	manyCartans(func(c [][]int) {
-		for _, w := range noWords(len(c)) {
-			expectNoElement(t, c, w)
-		}
-	})
-	for _, c := range invalidCartans() {
-		for _, w := range append(noWords(max(len(c), 1)), nil, []int{}, []int{0}, []int{1}, []int{0, 0}, []int{0, 1, 0}) {
-			expectNoElement(t, c, w)
-		}
-	}
+	eachNoWord(func(c [][]int, w []int) { expectNoElement(t, c, w) })
 }
 
 func TestLengthResultsAreFresh(t *testing.T) {

@@ -690,16 +690,7 @@ func expectNoProducts(t *testing.T, c [][]int, w []int) {
 }
 
 func TestElementsOfNoWords(t *testing.T) {
-	manyCartans(func(c [][]int) {
-		for _, w := range noWords(len(c)) {
-			expectNoProducts(t, c, w)
-		}
-	})
-	for _, c := range invalidCartans() {
-		for _, w := range append(noWords(max(len(c), 1)), nil, []int{}, []int{0}, []int{1}, []int{0, 0}, []int{0, 1, 0}) {
-			expectNoProducts(t, c, w)
-		}
-	}
+	eachNoWord(func(c [][]int, w []int) { expectNoProducts(t, c, w) })
 }
 
 func TestElementResultsAreFresh(t *testing.T) {
